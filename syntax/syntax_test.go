@@ -7,36 +7,8 @@ import (
 	"testing"
 
 	"damask/api"
+	"damask/internal/sample"
 )
-
-const example = `
-module Main {
-  data Nat : Type { Z : Nat; S : Nat -> Nat; };
-  data List : Type -> Type deriving (Eq) { Nil : forall a. List a; Cons : forall a. a -> List a -> List a; };
-  data Vec : Type -> Nat -> Type { VNil : forall a. Vec a 'Z; VCons : forall a (n : Nat). a -> Vec a n -> Vec a ('S n); };
-  newtype Age : Type { Age : Int -> Age; };
-  data Point : Type { Point : { px : Int, py : Int } -> Point; };
-  family Plus : Nat -> Nat -> Nat { Plus 'Z m = m; Plus ('S n) m = 'S (Plus n m); };
-  class Eq (a) { same : a -> a -> Bool; };
-  class Eq a => Ord (a) { below : a -> a -> Bool; };
-  class Collect (c) (e) | c -> e { insert : e -> c -> c; };
-  instance Eq Int { same = eq; };
-  instance forall a. Eq a => Collect (List a) a { insert = Cons; };
-  infixr 5 ++;
-  (++) : forall a. List a -> List a -> List a;
-  Nil ++ ys = ys;
-  Cons x xs ++ ys = Cons x (xs ++ ys);
-  append : forall a (n : Nat) (m : Nat). Vec a n -> Vec a m -> Vec a (Plus n m);
-  append VNil ys = ys;
-  append (VCons x xs) ys = VCons x (append xs ys);
-  head : forall a (n : Nat). Vec a ('S n) -> a;
-  head (VCons x _) = x;
-  twice : (forall a. a -> a) -> Int;
-  twice f | f True = f 1 | True = 0;
-  main : IO Unit;
-  main = bindIO (returnIO 5) (\x -> put (let { y = add x 1; } in case y of { 6 -> y; _ -> 0; }));
-}
-`
 
 func name(s string) api.Type         { return api.Type{Op: api.YName, S: s} }
 func variable(s string) api.Expr     { return api.Expr{Op: api.XVar, S: s} }
@@ -71,7 +43,7 @@ func decls(t *testing.T, source string, want ...api.Decl) {
 }
 
 func TestExample(t *testing.T) {
-	m := one(t, example)
+	m := one(t, sample.Example)
 	var ops []int
 	for _, d := range m.Decls {
 		ops = append(ops, d.Op)
@@ -715,10 +687,10 @@ func TestNames(t *testing.T) {
 
 // TestResultsAreNew changes a result, and reads again.
 func TestResultsAreNew(t *testing.T) {
-	first := one(t, example)
-	again := one(t, example)
+	first := one(t, sample.Example)
+	again := one(t, sample.Example)
 	first.Decls[1].Cons[1].Type.Args[0].S = "X"
-	if !Same(again, one(t, example)) || Same(first, again) {
+	if !Same(again, one(t, sample.Example)) || Same(first, again) {
 		t.Error("memory is shared")
 	}
 }
