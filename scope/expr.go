@@ -1,6 +1,9 @@
 package scope
 
-import "damask/api"
+import (
+	"damask/api"
+	"damask/leave"
+)
 
 // expression resolves an expression in its frame.
 func (r *resolver) expression(f *frame, e *api.Expr) api.Expr {
@@ -41,10 +44,10 @@ func (r *resolver) variable(f *frame, name string) operator {
 
 func (r *resolver) do(f *frame, l []api.Stmt) api.Expr {
 	if len(l) == 0 {
-		fail(api.ErrForm)
+		leave.With(api.ErrForm)
 	}
 	if last := l[len(l)-1]; last.Let || len(last.Pat) > 0 {
-		fail(api.ErrForm)
+		leave.With(api.ErrForm)
 	}
 	e := undone(l)
 	return r.expression(f, &e)
@@ -55,7 +58,7 @@ func (r *resolver) patterns(l []api.Pat) []api.Pat {
 	seen := map[string]bool{}
 	for _, name := range patNames(l) {
 		if seen[name] {
-			fail(api.ErrTwice)
+			leave.With(api.ErrTwice)
 		}
 		seen[name] = true
 	}

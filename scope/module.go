@@ -4,6 +4,7 @@ import (
 	"slices"
 
 	"damask/api"
+	"damask/leave"
 	"damask/syntax"
 )
 
@@ -44,13 +45,13 @@ func checkModules(l []api.Module) {
 	for _, m := range l {
 		switch syntax.Check(m) {
 		case api.ErrArg:
-			fail(api.ErrArg)
+			leave.With(api.ErrArg)
 		case api.ErrFull:
 			tooLarge = true
 		}
 	}
 	if tooLarge {
-		fail(api.ErrFull)
+		leave.With(api.ErrFull)
 	}
 }
 
@@ -60,14 +61,14 @@ func ordered(l []api.Module) []int {
 	positions := map[string]int{}
 	for i, m := range l {
 		if _, twice := positions[m.Name]; twice {
-			fail(api.ErrTwice)
+			leave.With(api.ErrTwice)
 		}
 		positions[m.Name] = i
 	}
 	for _, m := range l {
 		for _, i := range m.Imports {
 			if _, there := positions[i.Module]; !there {
-				fail(api.ErrName)
+				leave.With(api.ErrName)
 			}
 		}
 	}
@@ -80,7 +81,7 @@ func ordered(l []api.Module) []int {
 	for range l {
 		next := slices.IndexFunc(l, isReady)
 		if next < 0 {
-			fail(api.ErrRing)
+			leave.With(api.ErrRing)
 		}
 		done[l[next].Name] = true
 		order = append(order, next)
@@ -110,7 +111,7 @@ func chosen(from space, names []string) space {
 			s.values[name] = v
 		}
 		if !isType && !isValue {
-			fail(api.ErrExport)
+			leave.With(api.ErrExport)
 		}
 	}
 	return s
@@ -121,7 +122,7 @@ func declared(m *api.Module) space {
 	s, known := newSpace(), builtin()
 	add := func(to, known map[string]string, name string) {
 		if to[name] != "" || known[name] != "" {
-			fail(api.ErrTwice)
+			leave.With(api.ErrTwice)
 		}
 		to[name] = m.Name + "." + name
 	}
@@ -173,7 +174,7 @@ func once(l []api.Decl, ops ...int) {
 	for _, d := range l {
 		n := named{d.Op, d.Name}
 		if seen[n] && slices.Contains(ops, d.Op) {
-			fail(api.ErrTwice)
+			leave.With(api.ErrTwice)
 		}
 		seen[n] = true
 	}
@@ -202,7 +203,7 @@ func (s space) bring(from space) {
 	add := func(to, from map[string]string) {
 		for name, full := range from {
 			if to[name] != "" && to[name] != full {
-				fail(api.ErrTwice)
+				leave.With(api.ErrTwice)
 			}
 			to[name] = full
 		}

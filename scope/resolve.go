@@ -4,6 +4,7 @@ import (
 	"slices"
 
 	"damask/api"
+	"damask/leave"
 	"damask/syntax"
 )
 
@@ -41,7 +42,7 @@ func (r *resolver) addOperators(m *api.Module) {
 	own := declared(m).values
 	for _, d := range m.Decls {
 		if d.Op == api.DFix && own[d.Name] == "" {
-			fail(api.ErrName)
+			leave.With(api.ErrName)
 		}
 	}
 	once(m.Decls, api.DFix)
@@ -139,7 +140,7 @@ func (r *resolver) locals(f *frame, l []api.Decl) []api.Decl {
 		if d.Op != api.DFix {
 			made = append(made, r.half(f, d, signed, bound))
 		} else if !bound[d.Name] {
-			fail(api.ErrName)
+			leave.With(api.ErrName)
 		}
 	}
 	return made
@@ -149,14 +150,14 @@ func (r *resolver) locals(f *frame, l []api.Decl) []api.Decl {
 func (r *resolver) half(f *frame, d *api.Decl, signed map[string][]string, bound map[string]bool) api.Decl {
 	if d.Op == api.DSig {
 		if !bound[d.Name] {
-			fail(api.ErrName)
+			leave.With(api.ErrName)
 		}
 		return api.Decl{Op: d.Op, Name: d.Name, Type: r.generalized(f, &d.Type)}
 	}
 	first := d.Alts[0]
 	for _, a := range d.Alts {
 		if len(a.Pats) != len(first.Pats) || len(a.Pats) == 0 && len(d.Alts) > 1 {
-			fail(api.ErrForm)
+			leave.With(api.ErrForm)
 		}
 	}
 	return api.Decl{Op: d.Op, Name: d.Name, Alts: r.alts(f.withTypes(signed[d.Name]), d.Alts)}
@@ -186,7 +187,7 @@ func defined(l []api.Decl) map[string]bool {
 func (r *resolver) value(name string) string {
 	full := r.values[name]
 	if full == "" {
-		fail(api.ErrName)
+		leave.With(api.ErrName)
 	}
 	return full
 }

@@ -1,6 +1,9 @@
 package scope
 
-import "damask/api"
+import (
+	"damask/api"
+	"damask/leave"
+)
 
 // operator is one of an XOps: the name that it has in the result, and how it binds.
 type operator struct {
@@ -25,7 +28,7 @@ func strengthened(operators []string, fixes []api.Decl, e *api.Expr) api.Expr {
 		return operated(each(e.Fields, func(name *string) operator {
 			s, ok := f.find(*name)
 			if !ok {
-				fail(api.ErrName)
+				leave.With(api.ErrName)
 			}
 			return operator{*name, s}
 		}), made.Args)
@@ -62,7 +65,7 @@ func bindsFirst(left, right strength) bool {
 	case left.n != right.n:
 		return left.n > right.n
 	case left.side != right.side || left.side == "infix":
-		fail(api.ErrForm)
+		leave.With(api.ErrForm)
 	}
 	return left.side == "infixl"
 }

@@ -5,6 +5,7 @@ import (
 	"strings"
 
 	"damask/api"
+	"damask/leave"
 	"damask/syntax"
 )
 
@@ -15,7 +16,7 @@ func (r *resolver) constant(name string) string {
 	}
 	full := r.types[name]
 	if full == "" {
-		fail(api.ErrName)
+		leave.With(api.ErrName)
 	}
 	return full
 }
@@ -23,7 +24,7 @@ func (r *resolver) constant(name string) string {
 // closed resolves a type in which all names of variables are bound or scoped.
 func (r *resolver) closed(f *frame, t *api.Type) api.Type {
 	if len(unknown(f, t)) > 0 {
-		fail(api.ErrName)
+		leave.With(api.ErrName)
 	}
 	return r.inside(t, nil)
 }
