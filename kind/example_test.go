@@ -5,6 +5,7 @@ import (
 
 	"damask/api"
 	"damask/internal/sample"
+	"damask/internal/text"
 	"damask/scope"
 	"damask/syntax"
 )
@@ -20,9 +21,9 @@ func declarations(t *testing.T) ([]api.Decl, api.Env) {
 	for _, d := range p.Decls {
 		switch d.Op {
 		case api.DData, api.DNew:
-			env.Data = append(env.Data, api.DataType{Name: d.Name, Kind: nameless(d.Type, nil)})
+			env.Data = append(env.Data, api.DataType{Name: d.Name, Kind: text.Nameless(d.Type, nil)})
 		case api.DFamily:
-			env.Families = append(env.Families, api.Family{Name: d.Name, Kind: nameless(d.Type, nil), Arity: 2})
+			env.Families = append(env.Families, api.Family{Name: d.Name, Kind: text.Nameless(d.Type, nil), Arity: 2})
 		case api.DClass:
 			c := api.Class{Name: d.Name}
 			for _, v := range d.Vars {
@@ -41,8 +42,8 @@ func TestExample(t *testing.T) {
 	types := 0
 	check := func(names []string, ctx []api.Type, x api.Type) {
 		types++
-		if e := Check(env, nil, nil, ctx, nameless(x, names), con("Type")); e != api.OK {
-			t.Error(show(nameless(x, names)), e)
+		if e := Check(env, nil, nil, ctx, text.Nameless(x, names), con("Type")); e != api.OK {
+			t.Error(show(text.Nameless(x, names)), e)
 		}
 	}
 	for _, d := range l {

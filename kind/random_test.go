@@ -5,6 +5,7 @@ import (
 	"testing"
 
 	"damask/api"
+	"damask/internal/text"
 	"damask/types"
 )
 
@@ -212,22 +213,22 @@ func TestFurther(t *testing.T) {
 // TestNewMemory: arguments stay as they are, and no result shares memory with them or with itself.
 func TestNewMemory(t *testing.T) {
 	each(t, 6, func(m *maker, s sampled) {
-		before, context, text := show(s.t), s.ctx, ""
+		before, context, shown := show(s.t), s.ctx, ""
 		for _, k := range context {
-			text += show(k)
+			shown += show(k)
 		}
 		k, _ := Kind(m.env, m.metas, m.rigids, s.ctx, s.t)
 		_, left, _ := Arity(s.kind)
 		c, _ := Constant(m.env, m.constants[m.Intn(len(m.constants))].t.S)
 		p, _ := Promoted(m.env, "Cons")
 		for _, x := range list(k, left, c, p) {
-			spoil(x)
+			text.Spoil(x)
 		}
 		after := ""
 		for _, k := range context {
 			after += show(k)
 		}
-		if k, e := Kind(m.env, m.metas, m.rigids, s.ctx, s.t); show(s.t) != before || after != text || e != api.OK || !types.Same(k, s.kind) {
+		if k, e := Kind(m.env, m.metas, m.rigids, s.ctx, s.t); show(s.t) != before || after != shown || e != api.OK || !types.Same(k, s.kind) {
 			t.Fatal("changed:", before, show(k), e)
 		}
 	})
@@ -236,17 +237,6 @@ func TestNewMemory(t *testing.T) {
 		if k, e := Constant(m.env, c.t.S); e != api.OK || types.Check(k) != api.OK {
 			t.Error("changed:", c.t.S)
 		}
-	}
-}
-
-// spoil changes all nodes of a type; one that stands in it twice would be found changed already.
-func spoil(t api.Type) {
-	for i := range t.Args {
-		if t.Args[i].Op == 0 {
-			panic("memory is shared within a result")
-		}
-		spoil(t.Args[i])
-		t.Args[i] = api.Type{}
 	}
 }
 

@@ -1,13 +1,10 @@
 package kind
 
 import (
-	"slices"
-	"strconv"
 	"strings"
 
 	"damask/api"
-	"damask/print"
-	"damask/syntax"
+	"damask/internal/text"
 )
 
 func con(s string) api.Type         { return api.Type{Op: api.YCon, S: s} }
@@ -19,68 +16,19 @@ func all(k, b api.Type) api.Type    { return api.Type{Op: api.YAll, Args: []api.
 func imp(c, b api.Type) api.Type    { return api.Type{Op: api.YImp, Args: []api.Type{c, b}} }
 func list(l ...api.Type) []api.Type { return l }
 
-// read reads a type: its small names are those of variables, the last one that of the variable 0; m0 is the metavariable 0, r0 the rigid variable 0, and v0 the variable 0 outside of the names.
-func read(text string, names ...string) api.Type {
-	t, at, e := syntax.Type(text)
-	if e != api.OK {
-		panic(text + ": not read at " + strconv.Itoa(at))
-	}
-	return nameless(t, names)
-}
-
-func nameless(t api.Type, names []string) api.Type {
-	switch t.Op {
-	case api.YName:
-		for i, name := range slices.Backward(names) {
-			if name == t.S {
-				return bound(len(names) - 1 - i)
-			}
-		}
-		n, e := strconv.Atoi(t.S[1:])
-		op := strings.Index("v    mr", t.S[:1]) + 1
-		if e != nil || op < api.YVar {
-			panic(t.S + ": no such variable")
-		}
-		if op == api.YVar {
-			n += len(names)
-		}
-		return api.Type{Op: op, N: n}
-	case api.YAll:
-		return all(nameless(t.Args[0], names), nameless(t.Args[1], append(slices.Clone(names), t.S)))
-	}
-	made := api.Type{Op: t.Op, N: t.N, S: t.S}
-	for _, a := range t.Args {
-		made.Args = append(made.Args, nameless(a, names))
-	}
-	return made
-}
-
-// reads reads types, each with the same names.
-func reads(names []string, texts ...string) []api.Type {
-	var l []api.Type
-	for _, text := range texts {
-		l = append(l, read(text, names...))
-	}
-	return l
-}
+func read(t string, names ...string) api.Type          { return text.Type(t, names...) }
+func reads(names []string, texts ...string) []api.Type { return text.Types(names, texts...) }
+func show(t api.Type) string                           { return text.Show(t) }
 
 // scoped reads a context: "a : Type, f : a -> a".
-func scoped(text string) (names []string, ctx []api.Type) {
-	for _, part := range strings.Split(text, ", ") {
+func scoped(all string) (names []string, ctx []api.Type) {
+	for _, part := range strings.Split(all, ", ") {
 		if name, k, ok := strings.Cut(part, " : "); ok {
 			ctx = append(ctx, read(k, names...))
 			names = append(names, name)
 		}
 	}
 	return names, ctx
-}
-
-func show(t api.Type) string {
-	text, e := print.Closed(t)
-	if e != api.OK {
-		return "not proper"
-	}
-	return text
 }
 
 // world is an environment in which there is one of everything.

@@ -58,7 +58,7 @@ func (w walker) applied(f, argument api.Type) api.Type {
 	}
 	w.must(argument, *k)
 	if f.Op == api.YAll {
-		return made(types.Put(f.Args[1], []api.Type{argument}))
+		return leave.Must(types.Put(f.Args[1], []api.Type{argument}))
 	}
 	return f.Args[1]
 }
@@ -69,7 +69,7 @@ func (w walker) constant(name string, arguments int) api.Type {
 		leave.With(api.ErrForm)
 	}
 	c, e := find(w.env, name)
-	k := made(c.kind, e)
+	k := leave.Must(c.kind, e)
 	if arguments < c.arity {
 		leave.With(api.ErrForm)
 	}
@@ -79,13 +79,13 @@ func (w walker) constant(name string, arguments int) api.Type {
 func (w walker) variable(t api.Type) api.Type {
 	switch {
 	case t.Op == api.YVar && t.N < len(w.ctx):
-		return made(types.Shift(w.ctx[len(w.ctx)-1-t.N], t.N+1, 0))
+		return leave.Must(types.Shift(w.ctx[len(w.ctx)-1-t.N], t.N+1, 0))
 	case t.Op == api.YMeta && t.N < len(w.metas):
 		return w.metas[t.N].Kind
 	case t.Op == api.YRigid && t.N < len(w.rigids):
 		return w.rigids[t.N].Kind
 	}
-	return made(api.Type{}, api.ErrNone)
+	return leave.Must(api.Type{}, api.ErrNone)
 }
 
 // wanted returns the kind of the argument that something of the kind f wants, or nil if it wants none: what it becomes is in the second one of the Args of f then.
@@ -102,12 +102,4 @@ func wanted(f api.Type) *api.Type {
 // isApplied reports whether a type is a constant applied to two types.
 func isApplied(t api.Type, name string) bool {
 	return t.Op == api.YApp && t.Args[0].Op == api.YApp && t.Args[0].Args[0].Op == api.YCon && t.Args[0].Args[0].S == name
-}
-
-// made returns a kind, or leaves with the error that there is instead.
-func made(k api.Type, e api.Errno) api.Type {
-	if e != api.OK {
-		leave.With(e)
-	}
-	return k
 }

@@ -9,6 +9,14 @@ type failure struct{ e api.Errno }
 // With ends the innermost Tried with an error.
 func With(e api.Errno) { panic(failure{e}) }
 
+// Must returns the result of a call, or leaves with its error.
+func Must[T any](result T, e api.Errno) T {
+	if e != api.OK {
+		With(e)
+	}
+	return result
+}
+
 // Tried returns what a function makes, or the error with which it leaves.
 func Tried[T any](part func() T) (result T, e api.Errno) {
 	defer func() {

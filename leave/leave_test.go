@@ -28,3 +28,13 @@ func TestWithin(t *testing.T) {
 		t.Error(r, e)
 	}
 }
+
+func TestMust(t *testing.T) {
+	call := func(e api.Errno) (string, api.Errno) { return "result", e }
+	if r, e := Tried(func() string { return Must(call(api.OK)) }); r != "result" || e != api.OK {
+		t.Error(r, e)
+	}
+	if r, e := Tried(func() string { return Must(call(api.ErrFull)) }); r != "" || e != api.ErrFull {
+		t.Error(r, e)
+	}
+}

@@ -7,6 +7,7 @@ import (
 	"testing"
 
 	"damask/api"
+	"damask/internal/text"
 )
 
 const rounds = 3000
@@ -216,21 +217,10 @@ func TestNewMemory(t *testing.T) {
 		f, _ := Resolve(metas, x)
 		g, _ := Bind(x, api.YMeta, []int{0})
 		for _, y := range append(append(list(head, result, a, b, c, d, f, g), parts...), arguments...) {
-			spoil(y)
+			text.Spoil(y)
 		}
 		if !Same(before, fun(x, fun(l[0], fun(l[1], l[2])))) || !Same(metas[0].Value, fun(con("A"), con("B"))) {
 			t.Fatal("changed:", before)
 		}
-	}
-}
-
-// spoil changes all nodes of a type; one that stands in it twice would be found changed already.
-func spoil(t api.Type) {
-	for i := range t.Args {
-		if t.Args[i].Op == 0 {
-			panic("memory is shared within a result")
-		}
-		spoil(t.Args[i])
-		t.Args[i] = api.Type{}
 	}
 }

@@ -4,6 +4,7 @@ import (
 	"slices"
 
 	"damask/api"
+	"damask/nodes"
 	"damask/proper"
 )
 
@@ -57,13 +58,13 @@ func resolved(metas []api.Meta, t api.Type) (api.Type, api.Errno) {
 		}
 		value, found := known[t.N]
 		if !found {
-			value = rebuilt(metas[t.N].Value, 0, leaf)
+			value = nodes.Replace(metas[t.N].Value, leaf)
 			known[t.N] = value
 			tooLarge = tooLarge || !proper.Type(value)
 		}
 		return anew(value)
 	}
-	result := rebuilt(t, 0, leaf)
+	result := nodes.Replace(t, leaf)
 	if tooLarge {
 		return api.Type{}, api.ErrFull
 	}

@@ -5,46 +5,19 @@ import (
 	"slices"
 
 	"damask/api"
+	"damask/nodes"
 	"damask/proper"
 )
 
-// walk visits all nodes of a proper type; a closure is told of each one and of how many foralls are around it. The kind of a forall stands outside of it.
-func walk(t api.Type, around int, node func(t api.Type, around int)) {
-	node(t, around)
-	for i, a := range t.Args {
-		walk(a, around+binds(t, i), node)
-	}
-}
-
-// rebuilt returns a proper type in new memory, with what a closure makes of the nodes without Args.
-func rebuilt(t api.Type, around int, leaf func(t api.Type, around int) api.Type) api.Type {
-	if len(t.Args) == 0 {
-		return leaf(api.Type{Op: t.Op, N: t.N, S: t.S}, around)
-	}
-	made := api.Type{Op: t.Op, Args: make([]api.Type, len(t.Args))}
-	for i, a := range t.Args {
-		made.Args[i] = rebuilt(a, around+binds(t, i), leaf)
-	}
-	return made
-}
-
-// binds returns how many foralls a type is itself around one of its Args.
-func binds(t api.Type, arg int) int {
-	if t.Op == api.YAll && arg == 1 {
-		return 1
-	}
-	return 0
-}
-
 // anew returns a type in new memory.
 func anew(t api.Type) api.Type {
-	return rebuilt(t, 0, func(leaf api.Type, _ int) api.Type { return leaf })
+	return nodes.Replace(t, func(leaf api.Type, _ int) api.Type { return leaf })
 }
 
 // shift also reports whether no variable gets a number less than from.
 func shift(t api.Type, by, from int) (api.Type, bool) {
 	kept := true
-	shifted := rebuilt(t, 0, func(leaf api.Type, around int) api.Type {
+	shifted := nodes.Replace(t, func(leaf api.Type, around int) api.Type {
 		if leaf.Op == api.YVar && leaf.N >= around+from {
 			leaf.N += by
 			kept = kept && leaf.N >= around+from
@@ -71,7 +44,7 @@ func numbersOf(t api.Type, op int) ([]int, api.Errno) {
 		return nil, api.ErrArg
 	}
 	found := map[int]bool{}
-	walk(t, 0, func(node api.Type, _ int) {
+	nodes.Visit(t, func(node api.Type, _ int) {
 		if node.Op == op {
 			found[node.N] = true
 		}
@@ -81,7 +54,7 @@ func numbersOf(t api.Type, op int) ([]int, api.Errno) {
 
 func freeNumbers(t api.Type) []int {
 	found := map[int]bool{}
-	walk(t, 0, func(node api.Type, around int) {
+	nodes.Visit(t, func(node api.Type, around int) {
 		if node.Op == api.YVar && node.N >= around {
 			found[node.N-around] = true
 		}
@@ -91,7 +64,7 @@ func freeNumbers(t api.Type) []int {
 
 func size(t api.Type) int {
 	n := 0
-	walk(t, 0, func(api.Type, int) { n++ })
+	nodes.Visit(t, func(api.Type, int) { n++ })
 	return n
 }
 

@@ -7,6 +7,7 @@ import (
 	"testing"
 
 	"damask/api"
+	"damask/internal/text"
 )
 
 func con(s string) api.Type         { return api.Type{Op: api.YCon, S: s} }
@@ -18,24 +19,9 @@ func fun(a, b api.Type) api.Type    { return app(app(con("->"), a), b) }
 func all(k, b api.Type) api.Type    { return api.Type{Op: api.YAll, Args: []api.Type{k, b}} }
 func imp(c, b api.Type) api.Type    { return api.Type{Op: api.YImp, Args: []api.Type{c, b}} }
 func list(l ...api.Type) []api.Type { return l }
+func deep(n int) api.Type           { return text.Deep(n) }
+func wide(n int) api.Type           { return text.Wide(n) }
 func solved(t api.Type) api.Meta    { return api.Meta{Solved: true, Value: t} }
-
-// deep is nested so many nodes deep.
-func deep(n int) api.Type {
-	t := con("A")
-	for ; n > 1; n-- {
-		t = app(t, con("A"))
-	}
-	return t
-}
-
-// wide has 2^n leaves.
-func wide(n int) api.Type {
-	if n == 0 {
-		return con("A")
-	}
-	return app(wide(n-1), wide(n-1))
-}
 
 // improper are types each of which breaks the rules in another way.
 func improper() []api.Type {
