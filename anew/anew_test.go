@@ -75,6 +75,7 @@ func TestAnew(t *testing.T) {
 	check(t, 4, Program)
 	check(t, 4, Env)
 	check(t, 3, DataCon)
+	check(t, 4, Problem)
 	check(t, 4, func(d *api.Decl) api.Decl { return Decls([]api.Decl{*d})[0] })
 	check(t, 3, func(l *[]api.Type) []api.Type { return Types(*l) })
 }

@@ -6,6 +6,7 @@ import (
 	"slices"
 	"testing"
 
+	"damask/anew"
 	"damask/api"
 	"damask/internal/text"
 )
@@ -207,7 +208,7 @@ func TestNewMemory(t *testing.T) {
 	for range 300 {
 		x, l := m.typ(4), m.list(3)
 		metas := []api.Meta{solved(fun(con("A"), con("B"))), {}, {}, {}}
-		before := fun(anew(x), fun(anew(l[0]), fun(anew(l[1]), anew(l[2]))))
+		before := fun(anew.Type(&x), fun(anew.Type(&l[0]), fun(anew.Type(&l[1]), anew.Type(&l[2]))))
 		head, parts, _ := Spine(x)
 		arguments, result, _ := Arguments(x)
 		a, _ := Shift(x, 1, 0)

@@ -4,7 +4,6 @@ import (
 	"slices"
 
 	"damask/api"
-	"damask/nodes"
 	"damask/proper"
 )
 
@@ -45,28 +44,4 @@ func inRing(metas []api.Meta) bool {
 		}
 	}
 	return false
-}
-
-// resolved resolves each value once. One that is too large would be in the result as a whole, so that there is none.
-func resolved(metas []api.Meta, t api.Type) (api.Type, api.Errno) {
-	known := map[int]api.Type{}
-	tooLarge := false
-	var leaf func(t api.Type, around int) api.Type
-	leaf = func(t api.Type, _ int) api.Type {
-		if t.Op != api.YMeta || !metas[t.N].Solved || tooLarge {
-			return t
-		}
-		value, found := known[t.N]
-		if !found {
-			value = nodes.Replace(metas[t.N].Value, leaf)
-			known[t.N] = value
-			tooLarge = tooLarge || !proper.Type(value)
-		}
-		return anew(value)
-	}
-	result := nodes.Replace(t, leaf)
-	if tooLarge {
-		return api.Type{}, api.ErrFull
-	}
-	return full(result)
 }

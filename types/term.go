@@ -9,11 +9,6 @@ import (
 	"damask/proper"
 )
 
-// anew returns a type in new memory.
-func anew(t api.Type) api.Type {
-	return nodes.Replace(t, func(leaf api.Type, _ int) api.Type { return leaf })
-}
-
 // shift also reports whether no variable gets a number less than from.
 func shift(t api.Type, by, from int) (api.Type, bool) {
 	kept := true

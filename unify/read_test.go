@@ -1,0 +1,18 @@
+package unify
+
+import (
+	"damask/api"
+	"damask/internal/text"
+)
+
+func con(s string) api.Type         { return api.Type{Op: api.YCon, S: s} }
+func bound(n int) api.Type          { return api.Type{Op: api.YVar, N: n} }
+func meta(n int) api.Type           { return api.Type{Op: api.YMeta, N: n} }
+func rigid(n int) api.Type          { return api.Type{Op: api.YRigid, N: n} }
+func app(f, a api.Type) api.Type    { return api.Type{Op: api.YApp, Args: []api.Type{f, a}} }
+func all(k, b api.Type) api.Type    { return api.Type{Op: api.YAll, Args: []api.Type{k, b}} }
+func imp(c, b api.Type) api.Type    { return api.Type{Op: api.YImp, Args: []api.Type{c, b}} }
+func list(l ...api.Type) []api.Type { return l }
+
+func read(t string) api.Type { return text.Type(t) }
+func show(t api.Type) string { return text.Show(t) }
