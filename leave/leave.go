@@ -30,8 +30,10 @@ func Tried[T any](part func() T) (result T, e api.Errno) {
 
 // errorOf takes any other panic for an argument that is not valid, since no layer may panic.
 func errorOf(p any) api.Errno {
-	if f, ok := p.(failure); ok {
+	switch f := p.(type) {
+	case failure:
 		return f.e
+	default:
+		return api.ErrArg
 	}
-	return api.ErrArg
 }

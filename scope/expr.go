@@ -2,6 +2,7 @@ package scope
 
 import (
 	"damask/api"
+	"damask/free"
 	"damask/leave"
 )
 
@@ -56,7 +57,7 @@ func (r *resolver) do(f *frame, l []api.Stmt) api.Expr {
 // patterns resolves a list of patterns, in which no variable may be bound twice.
 func (r *resolver) patterns(l []api.Pat) []api.Pat {
 	seen := map[string]bool{}
-	for _, name := range patNames(l) {
+	for _, name := range free.Bound(l) {
 		if seen[name] {
 			leave.With(api.ErrTwice)
 		}

@@ -1,6 +1,9 @@
 package scope
 
-import "damask/api"
+import (
+	"damask/api"
+	"damask/free"
+)
 
 // strength is how an operator binds: how strongly, and to which side.
 type strength struct {
@@ -58,22 +61,10 @@ func (f *frame) scopes(name string) bool {
 
 func (f *frame) withPats(l []api.Pat) *frame {
 	in := &frame{frame: f, variables: map[string]strength{}}
-	for _, name := range patNames(l) {
+	for _, name := range free.Bound(l) {
 		in.variables[name] = usual
 	}
 	return in
-}
-
-// patNames returns the variables that patterns bind, as often as they do.
-func patNames(l []api.Pat) []string {
-	var names []string
-	for _, p := range l {
-		if p.Op == api.PVar || p.Op == api.PAs {
-			names = append(names, p.S)
-		}
-		names = append(names, patNames(p.Args)...)
-	}
-	return names
 }
 
 // withDecls binds what the DBinds of a list define; a DSig alone defines nothing.

@@ -9,6 +9,7 @@ import (
 	"testing"
 
 	"damask/api"
+	"damask/free"
 	"damask/syntax"
 )
 
@@ -172,9 +173,7 @@ func TestProgramIsFull(t *testing.T) {
 			t.Fatal(inGroups, names)
 		}
 		for _, d := range p.Decls {
-			s := newSearch()
-			s.alts(nil, d.Alts)
-			for name := range s.found {
+			for _, name := range free.Variables(&api.Expr{Op: api.XCase, Alts: d.Alts}) {
 				if !slices.Contains(names, name) && !slices.Contains(values, name) {
 					t.Fatal(name, showDecl(d))
 				}

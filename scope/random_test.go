@@ -9,6 +9,7 @@ import (
 	"testing"
 
 	"damask/api"
+	"damask/free"
 	"damask/internal/sample"
 	"damask/syntax"
 )
@@ -209,7 +210,7 @@ func freeByHand(x api.Expr) []string {
 	}
 	alts := func(l []api.Alt, but ...string) {
 		for _, a := range l {
-			in := slices.Concat(but, patNames(a.Pats), bound(a.Where))
+			in := slices.Concat(but, free.Bound(a.Pats), bound(a.Where))
 			for _, g := range a.Rhs {
 				for _, c := range append(g.If, g.Then) {
 					add(freeByHand(c), in...)
@@ -218,7 +219,7 @@ func freeByHand(x api.Expr) []string {
 			add(freeByHand(api.Expr{Op: api.XLet, Decls: a.Where, Args: []api.Expr{{Op: api.XInt}}}), in...)
 		}
 	}
-	in := append(patNames(x.Pats), bound(x.Decls)...)
+	in := append(free.Bound(x.Pats), bound(x.Decls)...)
 	for _, a := range x.Args {
 		add(freeByHand(a), in...)
 	}
@@ -241,7 +242,7 @@ func freeByHand(x api.Expr) []string {
 			continue
 		}
 		add(freeByHand(s.Expr), before...)
-		before = append(before, patNames(s.Pat)...)
+		before = append(before, free.Bound(s.Pat)...)
 	}
 	var l []string
 	for name := range found {

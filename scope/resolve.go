@@ -4,6 +4,7 @@ import (
 	"slices"
 
 	"damask/api"
+	"damask/free"
 	"damask/leave"
 	"damask/syntax"
 )
@@ -27,7 +28,7 @@ func resolved(l []api.Module) api.Program {
 		r.addOperators(m)
 		p.Decls = append(p.Decls, r.module(m)...)
 	}
-	p.Groups = groups(p.Decls)
+	p.Groups = free.Groups(p.Decls)
 	return p
 }
 

@@ -83,11 +83,8 @@ func typeAsIs(t *api.Type) api.Type {
 	return api.Type{Op: t.Op, N: t.N, S: t.S, Args: each(t.Args, typeAsIs)}
 }
 
-// undone is what the Stmts of a do become, with a number at the end if their last one is no expression.
+// undone is what the Stmts of a do become, the last one of which is an expression.
 func undone(l []api.Stmt) api.Expr {
-	if len(l) == 0 {
-		return api.Expr{Op: api.XInt}
-	}
 	s, rest := l[0], l[1:]
 	switch {
 	case s.Let:
