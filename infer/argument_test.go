@@ -136,9 +136,7 @@ func TestNotBuilt(t *testing.T) {
 	for name, change := range map[string]func(p *api.Program, env *api.Env){
 		"a DSig without its Sig":     func(p *api.Program, env *api.Env) { env.Sigs = env.Sigs[:3] },
 		"a DSig of another type":     func(p *api.Program, env *api.Env) { p.Decls[last-3].Type = named("Bool") },
-		"an instance less":           func(p *api.Program, env *api.Env) { env.Instances = env.Instances[1:] },
-		"an instance more":           func(p *api.Program, env *api.Env) { env.Instances = append(env.Instances, env.Instances[0]) },
-		"a declared instance less":   func(p *api.Program, env *api.Env) { p.Decls = p.Decls[:last] },
+		"an instance less":           func(p *api.Program, env *api.Env) { env.Instances = env.Instances[:len(env.Instances)-1] },
 		"another environment at all": func(p *api.Program, env *api.Env) { *env = decl.Builtin() },
 	} {
 		p, made := anew.Program(&right), anew.Env(&env)

@@ -5,6 +5,10 @@ import (
 	"testing"
 
 	"damask/api"
+	"damask/decl"
+	"damask/internal/text"
+	"damask/scope"
+	"damask/syntax"
 )
 
 // inferred writes the names and types of the definitions of a source behind those of the world; or the error, and which of the source's declarations has it.
@@ -73,6 +77,7 @@ func plainRows() []row {
 		{"f x = y where { y = Pair z z; z = y; };", "error 24 at 0"},
 		{"f = add; g = bindIO (put 1) (\\x -> returnIO True); h = atomically (bindSTM (newTVar 1) readTVar); u = catch get returnIO;", "f : Int -> Int -> Int; g : IO Bool; h : IO Int; u : IO Int"},
 		{"f = throw; g = retry; h = seq; u = orElse retry;", "f : forall a. Int -> a; g : forall a. STM a; h : forall a b. a -> b -> b; u : forall a. STM a -> STM a"},
+		{"f x = case x of { 0 -> True; True -> False; };", "error 24 at 0"},
 	}
 }
 
@@ -146,6 +151,21 @@ func refinedRows() []row {
 		{"f = VCons 1 (VCons 2 VNil);", "f : Vec Int ('S ('S 'Z))"},
 		{"f : Elem a -> Elem a; f x = x; g : Elem Int; g = True; h : List a -> Elem (List a); h (Cons x _) = x;", "f : forall a. Elem a -> Elem a; g : Elem Int; h : forall a. List a -> Elem (List a)"},
 		{"f : Elem a -> Elem a; f x = f x;", "error 24 at 1"},
+		{"f : forall (n : Nat). Vec Int n -> Int; f v = h v where { h VNil = 0; h (VCons x _) = x; };", "f : forall (a : Nat). Vec Int a -> Int"},
+		{"f : forall (n : Nat). Vec Int n -> Int; f v = h v where { h VNil = 0; h (VCons x y) = h y; };", "error 24 at 1"},
+		{"f : forall (n : Nat). Vec Int n -> Int; f v = h v where { h : forall (m : Nat). Vec Int m -> Int; h VNil = 0; h (VCons x y) = h y; };", "f : forall (a : Nat). Vec Int a -> Int"},
+		{"f : forall (n : Nat). Vec a n -> List a; f VNil = Nil; f (VCons x y) = Cons x (f y);", "f : forall a (b : Nat). Vec a b -> List a"},
+		{"f : forall a (n : Nat). Vec a n -> Proxy Nat n -> Vec (Pair a a) n; f VNil _ = VNil; f (VCons x y) _ = VCons (Pair x x) (f y Proxy);", "f : forall a (b : Nat). Vec a b -> Proxy Nat b -> Vec (Pair a a) b"},
+		{"f : forall a (n : Nat). Vec a n -> Proxy Nat n -> Vec (Pair a a) n; f VNil _ = VNil; f (VCons x y) _ = VCons (Pair x x) (f y (Proxy @Nat));", "f : forall a (b : Nat). Vec a b -> Proxy Nat b -> Vec (Pair a a) b"},
+		{"f : forall a (n : Nat) (m : Nat). Vec a n -> Vec a m -> Same (Vec a (Plus n m)) (Vec a (Plus n m)); f VNil _ = Same; f (VCons _ x) y = Same;", "f : forall a (b : Nat) (c : Nat). Vec a b -> Vec a c -> Same (Vec a (Plus b c)) (Vec a (Plus b c))"},
+		{"f : Same (List a) (List b) -> a -> b; f Same x = x;", "f : forall a b. Same (List a) (List b) -> a -> b"},
+		{"f : Same (Elem a) b -> Elem a -> b; f Same x = x;", "f : forall a b. Same (Elem a) b -> Elem a -> b"},
+		{"f : Same a (List a) -> Int; f Same = 1;", "f : forall a. Same a (List a) -> Int"},
+		{"f : forall (f : Type -> Type) (g : Type -> Type) a b. Same (f a) (g b) -> a -> b; f Same x = x;", "f : forall (a : Type -> Type) (b : Type -> Type) c d. Same (a c) (b d) -> c -> d"},
+		{"data Term : Type -> Type { Lit : Int -> Term Int; Is : Term Int -> Term Bool; If : Term Bool -> Term a -> Term a -> Term a; Both : Term a -> Term b -> Term (Pair a b); Fst : Term (Pair a b) -> Term a; }; eval : Term a -> a; eval (Lit n) = n; eval (Is x) = eq (eval x) 0; eval (If c x y) = if eval c then eval x else eval y; eval (Both x y) = Pair (eval x) (eval y); eval (Fst x) = case eval x of { Pair y _ -> y; };", "eval : forall a. Term a -> a"},
+		{"data Term : Type -> Type { Lit : Int -> Term Int; Is : Term Int -> Term Bool; }; eval (Lit n) = n; eval (Is x) = eq (eval x) 0;", "error 24 at 1"},
+		{"data Nest : Type -> Type { Flat : a -> Nest a; Nest : Nest (List a) -> Nest a; }; f : Nest a -> Int; f (Flat _) = 0; f (Nest x) = add 1 (f x);", "f : forall a. Nest a -> Int"},
+		{"data Nest : Type -> Type { Flat : a -> Nest a; Nest : Nest (List a) -> Nest a; }; f (Flat _) = 0; f (Nest x) = add 1 (f x);", "error 24 at 1"},
 	}
 }
 
@@ -166,6 +186,15 @@ func classesRows() []row {
 		{"f = map;", "error 24 at 0"},
 		{"instance Functor List { map f x = Nil; }; f = map (add 1) Nil; g x = map same (Cons x Nil);", "error 24 at 2"},
 		{"f : forall (g : Type -> Type). Functor g => g Int -> g Int; f = map (add 1);", "f : forall (a : Type -> Type). Functor a => a Int -> a Int"},
+		{"f : Eq a => a -> a -> Bool; f x y = g y where { g z = same x z; };", "f : forall a. Eq a => a -> a -> Bool"},
+		{"f : Eq a => a -> a -> Bool; f x y = g (Cons y Nil) where { g : Eq b => b -> Bool; g z = same z z; };", "f : forall a. Eq a => a -> a -> Bool"},
+		{"f (Ord x) = g x where { g y = same x y; };", "f : Some -> Bool"},
+		{"f (Ord x) (Ord y) = same x y;", "error 24 at 0"},
+		{"f : Some -> Some -> Bool; f (Ord x) (Some y) = same x x;", "f : Some -> Some -> Bool"},
+		{"class Conv (a) (b) | a -> b { conv : a -> b; }; instance Conv Int Bool { conv = eq 0; }; f = conv 1; g x = if conv (add x 1) then 1 else x;", "f : Bool; g : Int -> Int"},
+		{"class Conv (a) (b) | a -> b { conv : a -> b; }; f : Conv Int a => a -> a; f x = conv 1;", "f : forall a. Conv Int a => a -> a"},
+		{"class Same2 (a) { other : Elem a -> a; }; instance Same2 Int { other x = if x then 1 else 2; }; f = (other True : Int);", "f : Int"},
+		{"class Same2 (a) { other : Elem a -> a; }; instance Same2 (List a) { other x = Cons x Nil; }; f = (other 1 : List Int); g x = (other x : List Bool);", "f : List Int; g : Bool -> List Bool"},
 	}
 }
 
@@ -276,6 +305,31 @@ func firstErrorRows() []row {
 		{"f x = x { same = 1 };", "error 28 at 0"},
 		{"f x = (Point { px = 1 }) { years = 1 };", "error 28 at 0"},
 		{"f x = (1 2) { px = 1, px = 1 };", "error 28 at 0"},
+	}
+}
+
+// TestModules: names are full, whatever module they are of.
+func TestModules(t *testing.T) {
+	l, at, e := syntax.Modules(`
+		module B { import A; import C (g); y = f (g 1) True; z : List Int; z = Cons 1 (f y Nil); }
+		module A { data List : Type -> Type { Nil : List a; Cons : a -> List a -> List a; }; f x y = y; }
+		module C { import A (f, Cons); g x = Cons (f x x); }
+	`)
+	if e != api.OK {
+		t.Fatal(at)
+	}
+	p, e := scope.Resolve(l)
+	if e != api.OK {
+		t.Fatal(e)
+	}
+	env, p, _, _ := decl.Build(p)
+	sigs, at, e := Infer(p, env)
+	var texts []string
+	for _, s := range sigs {
+		texts = append(texts, s.Name+" : "+text.Show(s.Type))
+	}
+	if got := strings.Join(texts, "; "); e != api.OK || got != "A.f : forall a b. a -> b -> b; C.g : forall a. a -> A.List a -> A.List a; B.y : Bool; B.z : A.List Int" {
+		t.Error(got, at, e)
 	}
 }
 

@@ -38,7 +38,7 @@ func newProgram(p *api.Program, env *api.Env, sigs []api.Sig) *program {
 			instances++
 		}
 	}
-	if instances != len(env.Instances) || slices.ContainsFunc(sigs, func(s api.Sig) bool { return !isGlobal(env, s.Type) }) {
+	if instances > len(env.Instances) || slices.ContainsFunc(sigs, func(s api.Sig) bool { return !isGlobal(env, s.Type) }) {
 		leave.With(api.ErrArg)
 	}
 	for _, s := range sigs {
