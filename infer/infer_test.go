@@ -96,6 +96,8 @@ func annotationsRows() []row {
 		{"f : forall a. a -> List a; f x = Cons @a x (Nil @a);", "f : forall a. a -> List a"},
 		{"f : forall a. Eq a => forall b. b -> Int; f x = (1 : Int);", "f : forall a. Eq a => forall b. b -> Int"},
 		{"f : Int -> forall a. a -> a; f x y = y; g = f 1 True; h = f 1;", "f : Int -> forall a. a -> a; g : Bool; h : forall a. a -> a"},
+		{"f : forall a. Eq a => forall b. b -> a -> b; f x y = x; g = f @Int @Bool; h = f @Bool @Int;", "error 24 at 3"},
+		{"f : forall a. Eq a => forall b. b -> a -> b; f x y = x; g = f @Int @Bool;", "f : forall a. Eq a => forall b. b -> a -> b; g : Bool -> Int -> Bool"},
 		{"f : Int -> forall a. a -> a; f x y = y; g = f 1 @Bool;", "f : Int -> forall a. a -> a; g : Bool -> Bool"},
 		{"f : Int -> forall a. a -> a; f x | True = \\y -> y | True = f x;", "f : Int -> forall a. a -> a"},
 	}

@@ -141,3 +141,21 @@ func TestLargeTypes(t *testing.T) {
 		t.Error(size)
 	}
 }
+
+// TestLargeGeneralTypes: with the foralls for what is open a type can be too deep.
+func TestLargeGeneralTypes(t *testing.T) {
+	p, env := built(t, world)
+	count := map[api.Errno]int{}
+	e := resolved(t, "\\x y z -> x") // its type is 5 deep, and there are three foralls
+	for n := range 40 {
+		found, wrong := Expr(p, env, nil, e)
+		if wrong == api.OK && types.Check(found) != api.OK {
+			t.Error(n, "is not proper")
+		}
+		count[wrong]++
+		e = xapp(xcon("M.Cons"), e, xcon("M.Nil"))
+	}
+	if count[api.OK] != 33 || count[api.ErrFull] != 7 {
+		t.Error(count)
+	}
+}

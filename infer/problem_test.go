@@ -86,6 +86,8 @@ func TestProblem(t *testing.T) {
 		{"x : forall (k : Type) (a : k). Proxy k a -> Int; x y = kinded @k @(Proxy k) @a y;", " | Type @1, r0 @1 | -1: | 0: Proxy r0 r1 ~ Proxy r0 r1, 0: Int ~ Int", "forall a (b : a). Proxy a b -> Int"},
 		{"x : forall (n : Nat). Vec Int (Plus 'Z n) -> Int; x (VCons y z) = y;", " | Nat @1, Nat @2 | -1:; 0: Plus 'Z r0 ~ 'S r1 | 1: Int ~ Int", "forall (a : Nat). Vec Int (Plus 'Z a) -> Int"},
 		{"x : Vec Int (Plus 'Z 'Z) -> Int; x VNil = 1;", " |  | -1: Plus 'Z 'Z ~ 'Z | 0: Int ~ Int", "Vec Int (Plus 'Z 'Z) -> Int"},
+		{"x = (\\f u -> u) (\\(Some y) -> y) 2;", "Type, Type, Type, Type, Type | Type @1 | -1: | -1: m1 ~ (m3 -> m4), -1: m3 ~ Some, 0: r0 ~ m4, -1: Int ~ m2, -1: m2 ~ m0", "m0"},
+		{"x = (y : forall a. Eq a => forall b. b -> Bool) @Int @Bool True where { y : a -> Bool; y u = True; };", "Type, Type @1 | Type @1, Type @1, Type @1 | -1:; -1: Eq r1 | 0: Bool ~ Bool, 1: (m1 -> Bool) ~ (r2 -> Bool), -1: Eq Int, -1: Bool ~ Bool, -1: Bool ~ m0", "m0"},
 		{"x y = case y of { };", "Type, Type, Type |  |  | -1: m0 ~ (m1 -> m2)", "m0"},
 		{"x = (\\ (Some y) -> y) (Some 1);", "Type, Type, Type | Type @1 | -1: | -1: m1 ~ Some, -1: Int ~ m2, -1: Some ~ m1, -1: r0 ~ m0", "m0"},
 	} {
