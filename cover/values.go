@@ -1,0 +1,117 @@
+package cover
+
+import (
+	"iter"
+
+	"damask/api"
+	"damask/leave"
+	"damask/types"
+)
+
+// maxSize is the greatest size of values that can be asked for.
+const maxSize = 6
+
+// found is a value, with what is known when it has been looked at.
+type found struct {
+	value api.Pat
+	known *knowledge
+}
+
+// look is a type whose values have been looked at, where something is known.
+type look struct {
+	t       api.Type
+	options []option
+	leaves  []api.Pat // the values, if there are no constructors
+	sizes   map[int][]found
+}
+
+// upTo returns the values of a type from the smallest ones to those of a size.
+func (k *knowledge) upTo(t api.Type, size int) []api.Pat {
+	var l []api.Pat
+	for n := 1; n <= size; n++ {
+		for _, f := range k.values(t, n) {
+			l = append(l, copied(&f.value))
+		}
+		if len(l) > api.MaxWants {
+			leave.With(api.ErrFull)
+		}
+	}
+	return l
+}
+
+// values returns the values of a type that have a size. What has been found is kept: the same things come before many others.
+func (k *knowledge) values(t api.Type, size int) []found {
+	at := k.at(t)
+	l, known := at.sizes[size]
+	if !known {
+		k.look()
+		l = k.ofSize(at, size)
+		at.sizes[size] = l
+	}
+	return l
+}
+
+func (k *knowledge) at(t api.Type) *look {
+	for _, l := range k.looks {
+		if types.Same(l.t, t) {
+			return l
+		}
+	}
+	l := &look{t: t, sizes: map[int][]found{}}
+	k.looks = append(k.looks, l)
+	normal := k.normal(t)
+	data, _ := k.data(normal)
+	switch {
+	case isInt(normal):
+		l.leaves = []api.Pat{{Op: api.PInt}, {Op: api.PInt, N: 1}}
+	case data == nil || len(data.Cons) == 0:
+		l.leaves = []api.Pat{wild()}
+	default:
+		for o := range k.possible(normal) {
+			l.options = append(l.options, o)
+		}
+	}
+	return l
+}
+
+func (k *knowledge) ofSize(at *look, size int) []found {
+	var l []found
+	if size == 1 {
+		for _, p := range at.leaves {
+			l = append(l, found{p, k})
+		}
+	}
+	for _, o := range at.options {
+		if len(o.con.Args) >= size { // each of them has a size, too
+			continue
+		}
+		for args, known := range o.known.lists(o.args(), size-1) {
+			l = append(l, found{api.Pat{Op: api.PCon, S: o.con.Name, Args: args}, known})
+			if len(l) > api.MaxFuel {
+				leave.With(api.ErrFuel)
+			}
+		}
+	}
+	return l
+}
+
+// lists are lists of values of types that have a size together, with what is known behind each. They share memory.
+func (k *knowledge) lists(l []api.Type, size int) iter.Seq2[[]api.Pat, *knowledge] {
+	return func(yield func(l []api.Pat, known *knowledge) bool) {
+		if len(l) == 0 {
+			if size == 0 {
+				yield(nil, k)
+			}
+			return
+		}
+		for n := 1; n <= size-len(l)+1; n++ {
+			for _, f := range k.values(l[0], n) {
+				for rest, known := range f.known.lists(l[1:], size-n) {
+					if !yield(append([]api.Pat{f.value}, rest...), known) {
+						return
+					}
+				}
+			}
+		}
+	}
+}
