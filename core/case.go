@@ -93,8 +93,6 @@ func (c context) mustBeAll(of api.Type, alts []api.CoreAlt) {
 	if data, _ := c.data(of); data != nil {
 		must(!isConstant(of, "Int") && !data.New)
 		wanted = len(data.Cons)
-	} else {
-		must(c.isClassConstraint(of))
 	}
 	must(len(alts) == wanted)
 }

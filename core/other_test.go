@@ -211,6 +211,30 @@ func TestSameAndText(t *testing.T) {
 	}
 }
 
+// TestTexts: names that look like something else do not make one text of two terms.
+func TestTexts(t *testing.T) {
+	one := []api.Core{{Op: api.CInt}}
+	of := func(s string, l ...api.Type) api.Core {
+		return api.Core{Op: api.CNew, S: s, Types: l, Args: one}
+	}
+	cast := func(o api.Co) api.Core { return api.Core{Op: api.CCast, Args: one, Co: []api.Co{o}} }
+	a, b := named("a"), named("b")
+	texts := map[string]bool{}
+	terms := []api.Core{
+		of("x"), of("x", a), of("x a"), of("x", a, b), of("x a", b), of("x a b"), of("x", named("a b")), of("x", applied(a, b)), of("x", named("(a b)")), of("x", named(" a")), of("x", named("a "), b), of("x", api.Type{Op: api.YVar}), of("x", named("#0")), of("x", api.Type{Op: api.YMeta}), of("x", named("?0")), of("x", api.Type{Op: api.YRigid}), of("x", named("!0")),
+		of("x", implication(a, b)), of("x", forall(a, b)), of("x", applied(named("=>"), a, b)), of("x", applied(named("forall"), a, b)), of("x", named("=>"), a, b), of("x", named(`"a"`)), of(`"x"`), of("x", named("a\\tb")), of("x", named("a\tb")), of("x", named("a~")), of("x", named("a\x7f")), of("x", named("ä")), of("x", named("a\xe4")),
+		cast(api.Co{Op: api.OFam, S: "x"}), cast(api.Co{Op: api.OFam, S: "x 0"}), cast(api.Co{Op: api.OAxiom, S: "x"}), cast(api.Co{Op: api.OAxiom, S: "x", Types: []api.Type{a}}), cast(api.Co{Op: api.OAxiom, S: "x 0", Types: []api.Type{a}}), cast(api.Co{Op: api.OAxiom, S: "x", N: 1}), cast(api.Co{Op: api.OVar}), cast(api.Co{Op: api.OVar, N: 1}), cast(reflOf(a)), cast(api.Co{Op: api.OSym, Args: []api.Co{reflOf(a)}}),
+		{Op: api.CVar}, {Op: api.CInt}, {Op: api.CInt, N: -1}, {Op: api.CVar, N: 10}, {Op: api.CInt, N: 10}, {Op: api.CGlob, S: "10"}, {Op: api.CCon, S: "10"}, {Op: api.CLet, Args: one}, {Op: api.CLet, Types: []api.Type{a}, Args: []api.Core{{Op: api.CInt}, {Op: api.CInt}}},
+	}
+	for _, c := range terms {
+		s, err := Text(c)
+		if err != api.OK || texts[s] {
+			t.Error(s, err)
+		}
+		texts[s] = true
+	}
+}
+
 // emptied has empty lists for those that are nil.
 func emptied(c api.Core) api.Core {
 	var empty func(v reflect.Value)

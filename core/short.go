@@ -26,34 +26,34 @@ func short(o *api.Co) api.Co {
 	case o.Op == api.OTrans && l[1].Op == api.ORefl:
 		return l[0]
 	}
-	if t, ok := onlyType(&made); ok && isProperType(t) {
+	if t := onlyType(&made); isProperType(t) {
 		return api.Co{Op: api.ORefl, Types: []api.Type{t}}
 	}
 	return made
 }
 
-// onlyType returns the type that a coercion is between and itself, if it is made of such ones.
-func onlyType(o *api.Co) (api.Type, bool) {
+// onlyType returns the type that a coercion is between and itself, if it is made of such ones; otherwise it returns none.
+func onlyType(o *api.Co) api.Type {
 	var l []api.Type
 	for i := range o.Args {
 		if o.Args[i].Op != api.ORefl {
-			return api.Type{}, false
+			return api.Type{}
 		}
 		l = append(l, o.Args[i].Types[0])
 	}
 	switch o.Op {
 	case api.OApp:
-		return api.Type{Op: api.YApp, Args: l}, true
+		return api.Type{Op: api.YApp, Args: l}
 	case api.OImp:
-		return api.Type{Op: api.YImp, Args: l}, true
+		return api.Type{Op: api.YImp, Args: l}
 	case api.OAll:
-		return api.Type{Op: api.YAll, Args: []api.Type{o.Types[0], l[0]}}, true
+		return api.Type{Op: api.YAll, Args: []api.Type{o.Types[0], l[0]}}
 	case api.OFam:
 		t := named(o.S)
 		for _, a := range l {
 			t = api.Type{Op: api.YApp, Args: []api.Type{t, a}}
 		}
-		return t, true
+		return t
 	}
-	return api.Type{}, false
+	return api.Type{}
 }

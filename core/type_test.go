@@ -14,6 +14,8 @@ func globals() []api.Sig {
 	for _, row := range [][2]string{
 		{"id", "forall a. a -> a"}, {"five", "Int"}, {"list", "List Int"}, {"eqInt", "Eq Int"}, {"eqList", "forall a. Eq a => Eq (List a)"}, {"show", "forall a. Eq a => a -> Int"},
 		{"conv", "forall a b. a ~ b => a -> b"}, {"five", "Bool"}, {"poly", "(forall a. a -> a) -> Int"}, {"io", "IO Int"}, {"same", "forall (k : Type) (a : k). Proxy k a -> Proxy k a"},
+		// whether these have a kind, nobody asks
+		{"half", "Pair Int"}, {"over", "Pair Int Int Int"}, {"part", "Conv Int"}, {"odd", "Conv Int => Int"}, {"bare", "List"}, {"class", "Eq Int Int"}, {"closer", "Eq Int Int => Int"},
 	} {
 		l = append(l, api.Sig{Name: row[0], Type: text.Type(row[1])})
 	}
@@ -129,7 +131,7 @@ func TestCases(t *testing.T) {
 		// of classes
 		{"", "(case $eqInt x {Int -> Int -> Bool} (Eq% () () (f) f))", "Int -> Int -> Bool"}, {"", "(case $eqInt x {Eq Int} (Eq% () () (f) x))", "Eq Int"}, {"", "(case $eqInt x {Int} (_ 1))", "Int"}, {"", "(case $eqInt x {Int})", wrong}, {"", "(case $eqInt x {Int} (Ord% () () (f) 1))", wrong}, {"", "(case $eqInt x {Int} (Eq% () () (f) 1) (_ 2))", "Int"}, {"", "(case $eqInt x {Int} (Eq% () () (f) 1) (Eq% () () (f) 1))", wrong}, {"", "(case $eqInt x {Int} (1 2) (_ 2))", wrong}, {"", "(case $eqInt x {Int} (True () () () 2) (_ 2))", wrong}, {"", "(case $eqInt x {Int} (_ 2) (Eq% () () (f) 1))", wrong},
 		{"a : Type; y : Ord a;", "(case y x {Eq a} (Ord% () () (e f g) e))", "Eq a"}, {"a : Type; y : Ord a;", "(case y x {a -> a -> Bool} (Ord% () () (e f g) g))", "a -> a -> Bool"}, {"a : Type; y : Ord a;", "(case y x {Eq a} (Ord% () () (e f g) f))", wrong}, {"y : Empty;", "(case y x {Int} (Empty% () () () 1))", "Int"}, {"g : Type -> Type; y : Functor g;", "(case y x {(Int -> Bool) -> g Int -> g Bool} (Functor% () () (f) (at f {Int} {Bool})))", "(Int -> Bool) -> g Int -> g Bool"}, {"a : Type; b : Type; y : Conv a b;", "(case y x {a -> b} (Conv% () () (f) f))", "a -> b"},
-		{"a : Type; y : Eq (List a);", "(tlam b {Type} (case y x {List a -> List a -> Bool} (Eq% () () (f) f)))", "forall b. List a -> List a -> Bool"}, {"", "(case True x {Int} (Eq% () () (f) 1) (_ 2))", wrong}, {"", "(case $list x {Int} (True () () () 1) (False () () () 2))", wrong},
+		{"a : Type; y : Eq (List a);", "(tlam b {Type} (case y x {List a -> List a -> Bool} (Eq% () () (f) f)))", "forall b. List a -> List a -> Bool"}, {"", "(case $half x {Int} (_ 1))", wrong}, {"", "(case $over x {Int} (_ 1))", wrong}, {"", "(case $part x {Int} (_ 1))", wrong}, {"", "(case $bare x {Int} (_ 1))", wrong}, {"", "(case $class x {Int} (_ 1))", wrong}, {"", "(app $odd $part)", wrong}, {"", "(app $closer $class)", wrong}, {"", "(case True x {Int} (Eq% () () (f) 1) (_ 2))", wrong}, {"", "(case $list x {Int} (True () () () 1) (False () () () 2))", wrong},
 	})
 }
 

@@ -5,6 +5,8 @@ import (
 
 	"damask/api"
 	"damask/equate"
+	"damask/leave"
+	"damask/types"
 	"damask/unify"
 )
 
@@ -16,9 +18,18 @@ func isMatrix(rigids []api.Rigid, given, columns []api.Type, rows [][]api.Pat, g
 	return !slices.ContainsFunc(rows, func(row []api.Pat) bool { return len(row) != len(columns) || !all(row, isWellBuilt) })
 }
 
-// areTypes reports whether types are proper and have rigid variables alone that there are: then a problem that has them is formed.
+// areTypes reports whether types are proper, and rigid variables can be those of a problem.
 func areTypes(rigids []api.Rigid, given, l []api.Type) bool {
-	return unify.Check(api.Problem{Rigids: rigids, Imps: []api.Imp{{Parent: equate.Outside, Given: slices.Concat(given, l)}}}) == api.OK
+	proper := func(t api.Type) bool { return types.Check(t) == api.OK }
+	return !slices.ContainsFunc(slices.Concat(given, l), func(t api.Type) bool { return !proper(t) }) && unify.Check(api.Problem{Rigids: rigids}) == api.OK
+}
+
+// mustBeKnown leaves if proper types have other variables than the rigid ones that there are: nothing can be said of them.
+func mustBeKnown(rigids []api.Rigid, given, l []api.Type) {
+	p := api.Problem{Rigids: rigids, Imps: []api.Imp{{Parent: equate.Outside, Given: slices.Concat(given, l)}}}
+	if unify.Check(p) != api.OK {
+		leave.With(api.ErrType)
+	}
 }
 
 // all points at patterns, since copies of them would fill the stack where they are nested deeply.

@@ -19,12 +19,18 @@ type search struct {
 	env    *api.Env
 	index  *index.Index
 	looked int
+	steps  int
 }
 
 func (s *search) look() {
-	if s.looked++; s.looked > most {
-		leave.With(api.ErrFuel)
-	}
+	s.looked++
+	mustBeFew(s.looked, most, api.ErrFuel)
+}
+
+// step counts how often the next one of several types is gone to, also where it has been looked at before: there can be very many ways to nothing.
+func (s *search) step() {
+	s.steps++
+	mustBeFew(s.steps, api.MaxFuel, api.ErrFuel)
 }
 
 // knowledge is what is known where patterns are looked at, by the constructors around them and before them. Errors leave it.
@@ -36,8 +42,9 @@ type knowledge struct {
 	looks  []*look
 }
 
-// newKnowledge begins a search where some constraints are given.
-func newKnowledge(env *api.Env, rigids []api.Rigid, given []api.Type) *knowledge {
+// newKnowledge begins a search for types where some constraints are given.
+func newKnowledge(env *api.Env, rigids []api.Rigid, given []api.Type, l ...api.Type) *knowledge {
+	mustBeKnown(rigids, given, l)
 	return (&search{env: env, index: index.New(env)}).knowing(rigids, given)
 }
 
@@ -98,9 +105,7 @@ func (k *knowledge) with(c *api.DataCon, args []api.Type) (option, bool) {
 		context = append(context, api.Type{Op: api.YRigid, N: len(rigids)})
 		rigids = append(rigids, api.Rigid{Kind: put(e, context[:len(context)-1])})
 	}
-	if len(rigids) > api.MaxMetas {
-		leave.With(api.ErrFull)
-	}
+	mustBeFew(len(rigids), api.MaxMetas, api.ErrFull)
 	given := k.given[:len(k.given):len(k.given)]
 	for _, e := range c.Eqs {
 		given = append(given, equation(put(e.Left, context), put(e.Right, context)))
@@ -132,6 +137,13 @@ func (k *knowledge) mustFit(f *api.Pat, t api.Type) {
 }
 
 func isInt(t api.Type) bool { return t.Op == api.YCon && t.S == "Int" }
+
+// mustBeFew leaves with an error if there is more of something than there may be.
+func mustBeFew(n, most int, e api.Errno) {
+	if n > most {
+		leave.With(e)
+	}
+}
 
 // put puts types for the variables of a constructor.
 func put(t api.Type, context []api.Type) api.Type { return leave.Must(types.Put(t, context)) }

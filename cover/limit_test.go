@@ -289,3 +289,23 @@ func TestNotFormed(t *testing.T) {
 		t.Error(l, err)
 	}
 }
+
+// TestOtherTypes: what is proper, but is none of these types, is no argument that is not valid.
+func TestOtherTypes(t *testing.T) {
+	e := env(t)
+	rows, guarded := matrixOf("True; False;")
+	for _, source := range []string{"m0", "v0", "r1", "List m0", "forall a. v0", "List List", "Add 'Z", "List", "Eq", "'Z"} {
+		l := typs(source)
+		r := rigids("Type")
+		_, e1 := Missing(e, r, l, rows, guarded)
+		_, e2 := Useless(e, r, l, rows, guarded)
+		_, e3 := Values(e, r, l[0], 3)
+		_, e4 := Possible(e, r, nil, l[0])
+		_, e5 := Possible(e, r, l, typ("Bool"))
+		for _, err := range []api.Errno{e1, e2, e3, e4, e5} {
+			if err == api.ErrArg {
+				t.Error(source, e1, e2, e3, e4, e5)
+			}
+		}
+	}
+}

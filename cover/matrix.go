@@ -5,7 +5,6 @@ import (
 	"slices"
 
 	"damask/api"
-	"damask/leave"
 )
 
 type row = list[*api.Pat]
@@ -152,9 +151,7 @@ func missing(k *knowledge, columns []api.Type, rows [][]api.Pat, guarded []bool)
 		}
 	}
 	found := m.missing()
-	if len(found) > api.MaxDecls {
-		leave.With(api.ErrFull)
-	}
+	mustBeFew(len(found), api.MaxDecls, api.ErrFull)
 	var made [][]api.Pat
 	for _, l := range found {
 		items, _ := taken(l, len(columns))

@@ -74,6 +74,7 @@ func TestMatrices(t *testing.T) {
 		{question{"", "Int, Bool", "5 True; 3 False; _ True;"}, "5 False; _ False;", ""},
 		{question{"", "Int, Bool", "5 False; 3 False; x@7 True;"}, "3 True; 5 True; 7 False; _ _;", ""},
 		{question{"", "Int, Bool", "5 x; 5 True; y True; 6 True; 6 False;"}, "_ False;", "1 3"},
+		{question{"", "Int, Bool", "5 True; 5 True; 4 True; 5 True;"}, "4 False; 5 False; _ _;", "1 3"},
 		{question{"", "Int, Int", "1 2; 2 1;"}, "1 _; 2 _; _ _;", ""},
 		{question{"", "Bool, Int", "True 1; False 2;"}, "False _; True _;", ""},
 		{question{"", "List Int", "(Cons 1 x); Nil;"}, "(Cons _ _);", ""},

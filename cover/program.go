@@ -33,7 +33,7 @@ func leavesMissing(env *api.Env, t *api.Type, alts []api.Alt) bool {
 		if !isMatrix(s.rigids, s.given, columns, rows, guarded) {
 			leave.With(api.ErrArg)
 		}
-		return missing(newKnowledge(env, s.rigids, s.given), columns, rows, guarded)
+		return missing(newKnowledge(env, s.rigids, s.given, columns...), columns, rows, guarded)
 	})
 	return e == api.OK && len(found) > 0
 }

@@ -2,9 +2,9 @@ package cover
 
 import (
 	"iter"
+	"slices"
 
 	"damask/api"
-	"damask/leave"
 	"damask/types"
 )
 
@@ -29,23 +29,21 @@ type look struct {
 func (k *knowledge) upTo(t api.Type, size int) []api.Pat {
 	var l []api.Pat
 	for n := 1; n <= size; n++ {
-		for _, f := range k.values(t, n) {
+		for _, f := range k.values(t, n, true) {
 			l = append(l, copied(&f.value))
 		}
-		if len(l) > api.MaxWants {
-			leave.With(api.ErrFull)
-		}
+		mustBeFew(len(l), api.MaxWants, api.ErrFull)
 	}
 	return l
 }
 
-// values returns the values of a type that have a size. What has been found is kept: the same things come before many others.
-func (k *knowledge) values(t api.Type, size int) []found {
+// values returns the values of a type that have a size; if they are the last ones, each of them makes one of those that are asked for. What has been found is kept: the same things come before many others.
+func (k *knowledge) values(t api.Type, size int, last bool) []found {
 	at := k.at(t)
 	l, known := at.sizes[size]
 	if !known {
 		k.look()
-		l = k.ofSize(at, size)
+		l = k.ofSize(at, size, last)
 		at.sizes[size] = l
 	}
 	return l
@@ -67,14 +65,12 @@ func (k *knowledge) at(t api.Type) *look {
 	case data == nil || len(data.Cons) == 0:
 		l.leaves = []api.Pat{wild()}
 	default:
-		for o := range k.possible(normal) {
-			l.options = append(l.options, o)
-		}
+		l.options = slices.Collect(k.possible(normal))
 	}
 	return l
 }
 
-func (k *knowledge) ofSize(at *look, size int) []found {
+func (k *knowledge) ofSize(at *look, size int, last bool) []found {
 	var l []found
 	if size == 1 {
 		for _, p := range at.leaves {
@@ -85,18 +81,19 @@ func (k *knowledge) ofSize(at *look, size int) []found {
 		if len(o.con.Args) >= size { // each of them has a size, too
 			continue
 		}
-		for args, known := range o.known.lists(o.args(), size-1) {
+		for args, known := range o.known.lists(o.args(), size-1, last) {
 			l = append(l, found{api.Pat{Op: api.PCon, S: o.con.Name, Args: args}, known})
-			if len(l) > api.MaxFuel {
-				leave.With(api.ErrFuel)
+			if last {
+				mustBeFew(len(l), api.MaxWants, api.ErrFull)
 			}
+			mustBeFew(len(l), api.MaxFuel, api.ErrFuel)
 		}
 	}
 	return l
 }
 
 // lists are lists of values of types that have a size together, with what is known behind each. They share memory.
-func (k *knowledge) lists(l []api.Type, size int) iter.Seq2[[]api.Pat, *knowledge] {
+func (k *knowledge) lists(l []api.Type, size int, last bool) iter.Seq2[[]api.Pat, *knowledge] {
 	return func(yield func(l []api.Pat, known *knowledge) bool) {
 		if len(l) == 0 {
 			if size == 0 {
@@ -104,9 +101,13 @@ func (k *knowledge) lists(l []api.Type, size int) iter.Seq2[[]api.Pat, *knowledg
 			}
 			return
 		}
+		isLast := len(l) == 1
 		for n := 1; n <= size-len(l)+1; n++ {
-			for _, f := range k.values(l[0], n) {
-				for rest, known := range f.known.lists(l[1:], size-n) {
+			for _, f := range k.values(l[0], n, last && isLast) {
+				if !isLast {
+					k.step()
+				}
+				for rest, known := range f.known.lists(l[1:], size-n, last) {
 					if !yield(append([]api.Pat{f.value}, rest...), known) {
 						return
 					}

@@ -144,6 +144,7 @@ func TestProgram(t *testing.T) {
 		{"f : Bool -> Int; f True = 1;", "f"}, {"f : Bool -> Int; f True = 1; f False = 2;", ""}, {"f True = 1;", ""}, {"f : Bool -> Int; f x = 1;", ""},
 		{"f : Int; f = 1;", ""}, {"f : Int; f | True = 1;", "f"}, {"f : Int -> Int; f = add 1;", ""}, {"f : Int -> Int -> Int; f 1 = add 1;", "f"}, {"f : Int -> Int -> Int; f 1 = add 1; f _ = add 2;", ""},
 		{"f : Bool -> Int; f True = 1; f x | x = 2;", "f"}, {"f : Bool -> Int; f True | True = 1; f x = 2;", ""}, {"f : Bool -> Int; f x | x = 1 | True = 2;", "f"},
+		{"f True = 1; f : Bool -> Int;", "f"}, {"f True = 1; g : Bool -> Int; f : Bool -> Int; g x = 1;", "f"}, {"f x = 1; f : Bool -> Int;", ""},
 		{"g : Bool -> Int; g True = 1; f : Bool -> Bool; f False = True; h : Nat -> Nat; h x = x;", "g f"},
 		{"f : forall a. List a -> a; f (Cons x _) = x;", "f"}, {"f : List a -> a; f (Cons x _) = x;", "f"}, {"f : forall a (n : Nat). Vec a ('S n) -> a; f (VCons x _) = x;", ""}, {"f : forall a (n : Nat). Vec a n -> a; f (VCons x _) = x;", "f"},
 		{"f : forall a (n : Nat). Vec a n -> Vec a n -> Bool; f VNil VNil = True; f (VCons x y) (VCons _ z) = False;", ""},
@@ -169,5 +170,43 @@ func TestProgram(t *testing.T) {
 		if !slices.IsSorted(l) {
 			t.Error(row.source, l)
 		}
+	}
+}
+
+// TestNoClauses: a definition without any clause leaves everything missing.
+func TestNoClauses(t *testing.T) {
+	p, e := program(t, "f : Bool -> Int; f True = 1; f False = 2;")
+	for i := range p.Decls {
+		p.Decls[i].Alts = nil
+	}
+	if l, err := Program(p, e); err != api.OK || len(l) != 1 || p.Decls[l[0]].Op != api.DBind {
+		t.Error(l, err)
+	}
+}
+
+// TestManyWays: where there are very many ways to few values, or to very many, this is found out soon.
+func TestManyWays(t *testing.T) {
+	e := problem.Env("data Is : Type -> Type -> Type { Refl : Is a a; }; data Pair : Type -> Type -> Type { Pair : a -> b -> Pair a b; }; data Many : Type { " + lines(300, "K# : Many; ") + "};" + `
+		data Nothing : Type { Nothing : Many -> Many -> Many -> Many -> Is Int Bool -> Nothing; };
+		data Late : Type { Late : Many -> Is Int Bool -> Late; Soon : Late; };
+		data Much : Type { Much : Many -> Many -> Many -> Many -> Many -> Much; };
+		data Tree : Type { Leaf : Tree; Node : Tree -> Tree -> Tree; };
+		data Any : Type -> Type { ` + lines(40, "A# : a -> Any a -> Any Int; ") + `};`)
+	for _, row := range []struct {
+		t     string
+		size  int
+		count int
+		want  api.Errno
+	}{
+		{"Nothing", 6, 0, api.ErrFuel}, {"Nothing", 5, 0, api.OK}, {"Late", 6, 1, api.OK}, {"Much", 5, 0, api.OK}, {"Much", 6, 0, api.ErrFull}, {"Pair Many Many", 2, 0, api.OK}, {"Pair Many Many", 3, 0, api.ErrFull}, {"Pair (Pair Many Many) Many", 6, 0, api.ErrFuel}, {"Pair (Pair Many Many) (Is Int Bool)", 6, 0, api.ErrFuel},
+		{"Pair Many (Is Int Bool)", 6, 0, api.OK}, {"Pair Many Unit", 6, 300, api.OK}, {"Tree", 6, 4, api.OK}, {"Pair Tree Tree", 6, 3, api.OK}, {"Any Bool", 6, 0, api.OK},
+	} {
+		l, err := Values(e, nil, typ(row.t), row.size)
+		if err != row.want || len(l) != row.count {
+			t.Error(row.t, row.size, len(l), err)
+		}
+	}
+	if l, err := Values(e, rigids("Type"), typ("Any r0"), 6); err != api.ErrFuel || l != nil {
+		t.Error(len(l), err)
 	}
 }
