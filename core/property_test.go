@@ -40,7 +40,7 @@ func TestMadeTerms(t *testing.T) {
 	r := rand.New(rand.NewSource(1))
 	e := problem.Env(declared)
 	right, stillRight, count := 0, 0, map[api.Errno]int{}
-	for range 12000 {
+	for range 8000 {
 		m := newMaker(r, e)
 		want, c, made := m.try(1 + r.Intn(4))
 		if !made {
@@ -72,7 +72,7 @@ func TestMadeTerms(t *testing.T) {
 			}
 		}
 	}
-	if right < 9000 || stillRight < 1000 || count[api.ErrCore] < 9000 {
+	if right < 6000 || stillRight < 600 || count[api.ErrCore] < 6000 {
 		t.Error(right, stillRight, count)
 	}
 }
