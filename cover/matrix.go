@@ -4,10 +4,12 @@ import (
 	"iter"
 	"slices"
 
+	"damask/anew"
 	"damask/api"
 )
 
-type row = list[*api.Pat]
+// row is a list of forms.
+type row = list[api.Pat]
 
 // matrix has columns of types, and rows of as many patterns.
 type matrix struct {
@@ -24,24 +26,15 @@ type part struct {
 	types func() *list[api.Type] // which can be too large, and so are made for those parts alone that are looked at
 }
 
-func newRow(l []api.Pat) *row { return before(pointers(l), nil) }
-
-func pointers(l []api.Pat) []*api.Pat {
-	var made []*api.Pat
-	for i := range l {
-		made = append(made, &l[i])
-	}
-	return made
-}
+func newRow(l []api.Pat) *row { return before(anew.Each(l, form), nil) }
 
 // row returns what becomes of a row, if it can match values of the form.
 func (p *part) row(r *row) (*row, bool) {
-	f := form(r.first)
-	switch {
+	switch f := &r.first; {
 	case f.Op == api.PWild:
-		return before(pointers(slices.Repeat([]api.Pat{f}, p.args)), r.rest), true
-	case areAlike(&f, &p.head):
-		return before(pointers(f.Args), r.rest), true
+		return before(slices.Repeat([]api.Pat{*f}, p.args), r.rest), true
+	case areAlike(f, &p.head):
+		return before(anew.Each(f.Args, form), r.rest), true
 	}
 	return nil, false
 }
@@ -58,10 +51,7 @@ func (p *part) closed(missing *list[api.Pat]) *list[api.Pat] {
 // parts are those by which the values of the first column are told apart: its numbers or constructors decide, with those of one more row, if there is one.
 func (m *matrix) parts(own ...*row) iter.Seq[part] {
 	return func(yield func(part) bool) {
-		forms := chosen(slices.Concat(m.rows, own), func(r *row) (api.Pat, bool) {
-			f := form(r.first)
-			return f, f.Op != api.PWild
-		})
+		forms := chosen(slices.Concat(m.rows, own), func(r *row) (api.Pat, bool) { return r.first, r.first.Op != api.PWild })
 		if len(forms) == 0 {
 			yield(m.others())
 			return

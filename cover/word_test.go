@@ -295,7 +295,11 @@ func spoiled(r *rand.Rand, v reflect.Value) {
 			spoiled(r, v.Index(i))
 		}
 	case reflect.Struct:
-		spoiled(r, v.FieldByName("Args"))
+		args := v.FieldByName("Args")
+		spoiled(r, args)
+		if v.FieldByName("Op").Int() == api.PCon && r.Intn(8) == 0 {
+			args.Set(reflect.AppendSlice(args.Slice3(0, 0, 0), reflect.ValueOf(wildRow(r.Intn(3)))))
+		}
 		if r.Intn(12) == 0 {
 			l := pats("True 1 Z S (S _) VNil Nil (Cons x y) A (Pair x y) TInt Refl No")
 			v.Set(reflect.ValueOf(l[r.Intn(len(l))]))
